@@ -14,14 +14,15 @@ type Call struct {
 	B int
 }
 
-// newsSet has the bit i if the news of the friend i are in it.
-type newsSet uint16
+// friendSet has the bit i if the friend i is in it. News are told by the
+// friends whose own they are, so that it is a set of news, too.
+type friendSet uint16
 
-func (s newsSet) has(friend int) bool { return s&(1<<friend) != 0 }
+func (s friendSet) has(friend int) bool { return s&(1<<friend) != 0 }
 
-func (s newsSet) count() int { return bits.OnesCount16(uint16(s)) }
+func (s friendSet) count() int { return bits.OnesCount16(uint16(s)) }
 
-func (s newsSet) list() []int {
+func (s friendSet) list() []int {
 	found := make([]int, 0, s.count())
 	for friend := range MaxFriends {
 		if s.has(friend) {
@@ -35,23 +36,25 @@ func (s newsSet) list() []int {
 // know none, so that two values are equal just if all know the same by them.
 type knowledge struct {
 	friends int
-	news    [MaxFriends]newsSet
+	news    [MaxFriends]friendSet
 }
 
 // callers are the two friends of a call, with what each of them knows before it.
 type callers struct {
 	Call
-	newsA newsSet
-	newsB newsSet
+	newsA friendSet
+	newsB friendSet
 }
 
 func (c callers) include(friend int) bool { return c.A == friend || c.B == friend }
 
 func (c callers) learnNothing() bool { return c.newsA == c.newsB }
 
+// both returns what both friends know behind the call.
+func (c callers) both() friendSet { return c.newsA | c.newsB }
+
 func (c callers) learned() int {
-	both := c.newsA | c.newsB
-	return 2*both.count() - c.newsA.count() - c.newsB.count()
+	return 2*c.both().count() - c.newsA.count() - c.newsB.count()
 }
 
 func ownNews(friends int) knowledge {
@@ -66,15 +69,31 @@ func (k knowledge) before(c Call) callers {
 	return callers{Call: c, newsA: k.news[c.A], newsB: k.news[c.B]}
 }
 
-func (k knowledge) behind(c Call) knowledge {
-	both := k.news[c.A] | k.news[c.B]
-	k.news[c.A] = both
-	k.news[c.B] = both
+func (k knowledge) behind(c Call) knowledge { return k.behindCallers(k.before(c)) }
+
+func (k knowledge) behindCallers(c callers) knowledge {
+	k.news[c.A] = c.both()
+	k.news[c.B] = c.both()
+	return k
+}
+
+func (k knowledge) behindAll(calls []Call) knowledge {
+	for _, c := range calls {
+		k = k.behind(c)
+	}
 	return k
 }
 
 func (k knowledge) isWhole() bool {
 	return k.count() == k.friends*k.friends
+}
+
+func (k knowledge) lists() [][]int {
+	known := make([][]int, k.friends)
+	for friend := range known {
+		known[friend] = k.news[friend].list()
+	}
+	return known
 }
 
 func (k knowledge) count() int {
@@ -86,11 +105,7 @@ func (k knowledge) count() int {
 }
 
 func knowledgeBehind(friends int, calls []Call) knowledge {
-	k := ownNews(friends)
-	for _, c := range calls {
-		k = k.behind(c)
-	}
-	return k
+	return ownNews(friends).behindAll(calls)
 }
 
 func canBeFriends(friends int) bool { return 1 <= friends && friends <= MaxFriends }
@@ -133,12 +148,7 @@ func KnownAfter(friends int, calls []Call) ([][]int, bool) {
 	if !AreCalls(friends, calls) {
 		return nil, false
 	}
-	k := knowledgeBehind(friends, calls)
-	known := make([][]int, friends)
-	for friend := range friends {
-		known[friend] = k.news[friend].list()
-	}
-	return known, true
+	return knowledgeBehind(friends, calls).lists(), true
 }
 
 // AllKnow reports whether all know then.
@@ -230,11 +240,7 @@ func NeedlessCalls(friends int, calls []Call) ([]int, bool) {
 }
 
 func knowledgeWithout(friends int, calls []Call, skipped int) knowledge {
-	known := knowledgeBehind(friends, calls[:skipped])
-	for _, c := range calls[skipped+1:] {
-		known = known.behind(c)
-	}
-	return known
+	return knowledgeBehind(friends, calls[:skipped]).behindAll(calls[skipped+1:])
 }
 
 // BackCalls returns the calls in the other order: a friend x knows the news of y behind these just if y knows those of x behind the calls themselves.
@@ -266,7 +272,7 @@ func nameAll(friends int, names []int) bool {
 	if len(names) != friends {
 		return false
 	}
-	var named newsSet
+	var named friendSet
 	for _, name := range names {
 		if !isFriend(friends, name) || named.has(name) {
 			return false
