@@ -267,7 +267,7 @@ func RenameCalls(friends int, calls []Call, names []int) ([]Call, bool) {
 	return renamed, true
 }
 
-// nameAll reports whether names are a list of all friends, each once.
+// nameAll reports whether names are a list of all of so many friends, or wires (chapter 5), each once.
 func nameAll(friends int, names []int) bool {
 	if len(names) != friends {
 		return false
