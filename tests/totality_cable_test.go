@@ -130,19 +130,10 @@ func TestCablesStayAsTheyAre(t *testing.T) {
 		lists := [][2][]int{p, {p[0], r.Perm(wires)}, {sizesIn(p[0]), sizesIn(p[1])}}
 		for _, l := range lists {
 			a, b := roomyList(l[0]), roomyList(l[1])
-			before := wholeListText(a, b)
+			whole := func() string { return wholeListText(a, b) }
 			x := cableArguments{wires, a, b}
 			for _, f := range cableFunctions() {
-				first, ok := f.run(x)
-				text := fmt.Sprint(first, ok)
-				spoil(t, f.name, reflect.ValueOf(first), -9)
-				if wholeListText(a, b) != before {
-					t.Fatalf("%s of %v changed or handed out its arguments", f.name, x)
-				}
-				again, fine := f.run(x)
-				if fmt.Sprint(again, fine) != text {
-					t.Fatalf("%s of %v: first %s, then %v, %v", f.name, x, text, again, fine)
-				}
+				checkStays(t, f.name, x, func() (any, bool) { return f.run(x) }, whole)
 			}
 		}
 	}

@@ -120,19 +120,9 @@ func TestSendsStayAsTheyAre(t *testing.T) {
 	for _, c := range cases {
 		list := roomySends(c.sends)
 		whole := func() string { return fmt.Sprint(list[:cap(list)], len(list)) }
-		before := whole()
 		x := delayArguments{c.delay, c.people, list, r.Intn(c.people)}
 		for _, f := range delayFunctions() {
-			first, ok := f.run(x)
-			text := fmt.Sprint(first, ok)
-			spoil(t, f.name, reflect.ValueOf(first), -9)
-			if whole() != before {
-				t.Fatalf("%s of %v changed or handed out its arguments", f.name, x)
-			}
-			again, fine := f.run(x)
-			if fmt.Sprint(again, fine) != text {
-				t.Fatalf("%s of %v: first %s, then %v, %v", f.name, x, text, again, fine)
-			}
+			checkStays(t, f.name, x, func() (any, bool) { return f.run(x) }, whole)
 		}
 	}
 }

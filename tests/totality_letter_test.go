@@ -137,20 +137,11 @@ func TestLettersStayAsTheyAre(t *testing.T) {
 	for _, c := range letterSample() {
 		// The room behind the letters is filled, so that a function that writes there is seen.
 		roomy := append(append([]impl.Letter{}, c.letters...), repeatedLetter(impl.Letter{From: 7, To: 8}, 5)...)
-		before := append([]impl.Letter{}, roomy...)
+		whole := func() string { return fmt.Sprint(roomy) }
 		friend := r.Intn(c.friends)
 		for _, f := range append(letterFunctions(), otherLetterFunctions()...) {
-			list := roomy[:len(c.letters)]
-			first, ok := f.run(c.friends, list, friend)
-			text := fmt.Sprint(first, ok)
-			spoil(t, f.name, reflect.ValueOf(first), -9)
-			if !reflect.DeepEqual(roomy, before) {
-				t.Fatalf("%s %v changed or handed out its letters", f.name, c)
-			}
-			again, fine := f.run(c.friends, list, friend)
-			if fmt.Sprint(again, fine) != text {
-				t.Fatalf("%s %v: first %s, then %v, %v", f.name, c, text, again, fine)
-			}
+			run := func() (any, bool) { return f.run(c.friends, roomy[:len(c.letters)], friend) }
+			checkStays(t, f.name, c, run, whole)
 		}
 	}
 }

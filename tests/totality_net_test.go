@@ -1,7 +1,6 @@
 package tests
 
 import (
-	"fmt"
 	"math/rand"
 	"reflect"
 	"slices"
@@ -95,20 +94,11 @@ func TestNetsStayAsTheyAre(t *testing.T) {
 			continue // to save time
 		}
 		lists := roomy([][]impl.Call{m.pairs, randomCalls(r, m.friends, 6)})
-		before := wholeText(lists)
+		whole := func() string { return wholeText(lists) }
 		a, b := r.Intn(m.friends), r.Intn(m.friends)
 		x := netArguments{m.friends, lists[0], lists[1], impl.Call{A: min(a, b), B: max(a, b)}, a, b}
 		for _, f := range functions {
-			first, ok := f.run(x)
-			text := fmt.Sprint(first, ok)
-			spoil(t, f.name, reflect.ValueOf(first), -9)
-			if wholeText(lists) != before {
-				t.Fatalf("%s of %v changed or handed out its arguments", f.name, x)
-			}
-			again, fine := f.run(x)
-			if fmt.Sprint(again, fine) != text {
-				t.Fatalf("%s of %v: first %s, then %v, %v", f.name, x, text, again, fine)
-			}
+			checkStays(t, f.name, x, func() (any, bool) { return f.run(x) }, whole)
 		}
 	}
 }

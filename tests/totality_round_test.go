@@ -147,19 +147,11 @@ func TestRoundsStayAsTheyAre(t *testing.T) {
 		}
 		list := roomy(c.rounds)
 		pairs := roomy([][]impl.Call{pairsThat(c.friends, func(i int, c impl.Call) bool { return r.Intn(2) > 0 })})
-		before := wholeText(list) + wholeText(pairs)
+		whole := func() string { return wholeText(list) + wholeText(pairs) }
 		friend, n := r.Intn(c.friends), r.Intn(21)
 		for _, f := range roundFunctions() {
-			first, ok := f.run(c.friends, list, pairs[0], friend, n)
-			text := fmt.Sprint(first, ok)
-			spoil(t, f.name, reflect.ValueOf(first), -9)
-			if wholeText(list)+wholeText(pairs) != before {
-				t.Fatalf("%s %v %v changed or handed out its arguments", f.name, c, pairs)
-			}
-			again, fine := f.run(c.friends, list, pairs[0], friend, n)
-			if fmt.Sprint(again, fine) != text {
-				t.Fatalf("%s %v %v: first %s, then %v, %v", f.name, c, pairs, text, again, fine)
-			}
+			run := func() (any, bool) { return f.run(c.friends, list, pairs[0], friend, n) }
+			checkStays(t, f.name, []any{c, pairs}, run, whole)
 		}
 	}
 }

@@ -153,25 +153,32 @@ func TestArgumentsStayAsTheyAre(t *testing.T) {
 		// The room behind the arguments is filled, so that a function that writes there is seen.
 		roomyCalls := append(append([]impl.Call{}, c.calls...), repeated(impl.Call{A: 7, B: 8}, 5)...)
 		roomyNames := append(r.Perm(c.friends), 77, 78, 79)
-		callsBefore := append([]impl.Call{}, roomyCalls...)
-		namesBefore := append([]int{}, roomyNames...)
+		whole := func() string { return fmt.Sprint(roomyCalls, roomyNames) }
 		k := r.Intn(max(1, min(c.friends, len(c.calls))))
 		for _, f := range append(callFunctions(), planFunctions()...) {
 			list, names := roomyCalls[:len(c.calls)], roomyNames[:c.friends]
-			first, ok := f.run(c.friends, list, k, names)
-			if !reflect.DeepEqual(roomyCalls, callsBefore) || !reflect.DeepEqual(roomyNames, namesBefore) {
-				t.Fatalf("%s %v changed its arguments", f.name, c)
-			}
-			text := fmt.Sprint(first, ok)
-			spoil(t, f.name, reflect.ValueOf(first), -9)
-			if !reflect.DeepEqual(roomyCalls, callsBefore) || !reflect.DeepEqual(roomyNames, namesBefore) {
-				t.Fatalf("%s %v handed out its arguments", f.name, c)
-			}
-			again, fine := f.run(c.friends, list, k, names)
-			if fmt.Sprint(again, fine) != text {
-				t.Fatalf("%s %v: first %s, then %v, %v", f.name, c, text, again, fine)
-			}
+			checkStays(t, f.name, c, func() (any, bool) { return f.run(c.friends, list, k, names) }, whole)
 		}
+	}
+}
+
+// checkStays checks that a function of some arguments neither changes nor hands out what whole tells of these, and
+// that its result is the same again behind the first one is spoilt.
+func checkStays(t *testing.T, name string, arguments any, run func() (any, bool), whole func() string) {
+	t.Helper()
+	before := whole()
+	first, ok := run()
+	text := fmt.Sprint(first, ok)
+	if whole() != before {
+		t.Fatalf("%s of %v changed its arguments", name, arguments)
+	}
+	spoil(t, name, reflect.ValueOf(first), -9)
+	if whole() != before {
+		t.Fatalf("%s of %v handed out its arguments", name, arguments)
+	}
+	again, fine := run()
+	if fmt.Sprint(again, fine) != text {
+		t.Fatalf("%s of %v: first %s, then %v, %v", name, arguments, text, again, fine)
 	}
 }
 

@@ -147,19 +147,9 @@ func TestWiresStayAsTheyAre(t *testing.T) {
 		whole := func() string {
 			return wholeListText(tests[:cap(tests)]...) + wholeListText(others[:cap(others)]...) + wholeListText(broken)
 		}
-		before := whole()
 		x := wireArguments{c.wires, tests, others, broken, signsOf(c.tests, broken), r.Intn(min(c.wires, 3) + 1)}
 		for _, f := range wireFunctions() {
-			first, ok := f.run(x)
-			text := fmt.Sprint(first, ok)
-			spoil(t, f.name, reflect.ValueOf(first), -9)
-			if whole() != before {
-				t.Fatalf("%s of %v changed or handed out its arguments", f.name, x)
-			}
-			again, fine := f.run(x)
-			if fmt.Sprint(again, fine) != text {
-				t.Fatalf("%s of %v: first %s, then %v, %v", f.name, x, text, again, fine)
-			}
+			checkStays(t, f.name, x, func() (any, bool) { return f.run(x) }, whole)
 		}
 	}
 }
