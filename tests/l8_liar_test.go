@@ -377,7 +377,7 @@ func TestAreClaims(t *testing.T) {
 	}
 }
 
-// Promise 8: all lists of at most three claims of few friends: of one about itself, the same claim twice, and claims that clash among them.
+// Promise 8: all lists of at most four claims of one friend, of one claim less for each friend more: those of one about itself, the same claim twice, and claims that clash among them.
 func TestSmallClaims(t *testing.T) {
 	for friends, most := range []int{0, 4, 3, 2, 1} {
 		lists := [][]impl.Claim{nil}
@@ -783,7 +783,7 @@ func TestWrongFriendsOfCasts(t *testing.T) {
 
 // Promise 8: honest ones answer what is so, liars what is not, also about themselves.
 func TestAskAbout(t *testing.T) {
-	for friends := 1; friends <= 5; friends++ {
+	for friends := 1; friends <= impl.MaxAsked; friends++ {
 		for _, s := range castTexts(friends) {
 			for _, c := range allClaims(friends) {
 				says, ok := impl.AskAbout(s, c.By, c.About, c.Honest)
