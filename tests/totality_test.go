@@ -186,6 +186,11 @@ func checkStays(t *testing.T, name string, arguments any, run func() (any, bool)
 // Each slice gets junk of its own, so that one is seen to change whichever other one is written to.
 func spoil(t *testing.T, name string, v reflect.Value, junk int64) {
 	t.Helper()
+	if v.Kind() == reflect.Struct {
+		for i := range v.NumField() {
+			spoil(t, name, v.Field(i), junk)
+		}
+	}
 	if v.Kind() != reflect.Slice {
 		return
 	}
@@ -201,11 +206,21 @@ func spoil(t *testing.T, name string, v reflect.Value, junk int64) {
 	}
 	v = v.Slice(0, v.Cap())
 	for i := range v.Len() {
-		if e := v.Index(i); e.Kind() == reflect.Int {
-			e.SetInt(junk)
-		} else {
-			e.Set(reflect.Zero(e.Type()))
+		overwrite(v.Index(i), junk)
+	}
+}
+
+// overwrite puts junk into the numbers of a value, and zeros in place of all else.
+func overwrite(v reflect.Value, junk int64) {
+	switch v.Kind() {
+	case reflect.Int:
+		v.SetInt(junk)
+	case reflect.Struct:
+		for i := range v.NumField() {
+			overwrite(v.Field(i), junk)
 		}
+	default:
+		v.SetZero()
 	}
 }
 
